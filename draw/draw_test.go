@@ -320,10 +320,11 @@ func TestNoTwoAreStirredToOne(t *testing.T) {
 	}
 }
 
-// P5.2, for all numbers: two of them turned by each other are stirred to what
-// both are stirred to, turned by each other; and the numbers of one bit are
-// stirred to such as give 0 by no turning of some of them by each other. So 0
-// alone is stirred to 0, and no two numbers to one.
+// P5.2: the numbers of one bit are stirred to such as give 0 by no turning of
+// some of them by each other; and two numbers turned by each other are stirred
+// to what both are stirred to, turned by each other, which is looked at for
+// many of them. Where that holds, 0 alone is stirred to 0, and no two numbers
+// to one.
 func TestStirredBitsAreApart(t *testing.T) {
 	var lead [64]uint64
 	for i := range 64 {
