@@ -72,8 +72,7 @@ func (c *course) comeBack(e Entry) bool {
 	return true
 }
 
-// may tells whether an operation is one. (An Interrupt's object is 0, as its commit's
-// is: it is of no object.)
+// may tells whether an operation is one.
 func (c *course) may(o api.Op) bool {
 	if o.Obj < 0 || o.Obj >= c.objects {
 		return false
@@ -84,7 +83,7 @@ func (c *course) may(o api.Op) bool {
 	case wait:
 		return o.Arg >= 0
 	case interrupt:
-		return o.Obj == 0 && c.hasThread(o.Arg)
+		return c.hasThread(o.Arg)
 	}
 	return false
 }

@@ -56,7 +56,7 @@ func (d *doing) end() {
 // takes it. (That one who waits leaves once at most, and ends as it left, the model
 // sees to.)
 func (d *doing) takes(e model.Event) bool {
-	if e.Obj != d.Obj {
+	if e.Obj != d.isOf() {
 		return false
 	}
 	switch d.stage {
@@ -66,6 +66,15 @@ func (d *doing) takes(e model.Event) bool {
 		return e.Kind == model.Leave || e.Kind == model.End
 	}
 	return false
+}
+
+// isOf is the object of the operation's commits: of an Interrupt 0, whatever object it
+// was called with, as a thread is interrupted at no object.
+func (d *doing) isOf() int {
+	if d.Kind == interrupt {
+		return 0
+	}
+	return d.Obj
 }
 
 // takesFirst tells so of one that has no commit yet but Wakes.

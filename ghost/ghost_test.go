@@ -96,11 +96,12 @@ func TestNewOfWhatMayNotBe(t *testing.T) {
 	}
 }
 
-// P15.2: Right of as many as may not be.
+// P15.2: Right of as many as may not be: no entry is right, and of no entries that is
+// all.
 func TestRightOfWhatMayNotBe(t *testing.T) {
 	for _, w := range wrongWorlds() {
 		for _, l := range [][]ghost.Entry{nil, {}, entries(t, owns), entries(t, "0 call enter 0 #1"), {{}}} {
-			if n, ok := ghost.Right(w.threads, w.objects, w.most, l); n != 0 || ok {
+			if n, ok := ghost.Right(w.threads, w.objects, w.most, l); n != 0 || ok != (len(l) == 0) {
 				t.Errorf("Right(%v) of %d entries is %d, %v", w, len(l), n, ok)
 			}
 		}
@@ -147,7 +148,7 @@ func TestOpen(t *testing.T) {
 	log := small.made(t)
 	var so []ghost.Entry
 	for _, text := range []string{
-		"1 call enter 1", "1 enter 1", "1 return", "1 call wait 1 77", "1 begin 1", "0 call interrupt 0 2", "1 leave 1 time",
+		"1 call enter 1", "1 enter 1", "1 return", "1 call wait 1 77", "1 begin 1", "0 call interrupt 1 2", "1 leave 1 time",
 		"0 interrupt 0 2", "2 call holds 1", "1 end 1 time", "0 return", "2 holds 1", "1 return time", "2 return",
 	} {
 		e := entry(t, so, text)
@@ -165,7 +166,7 @@ func TestOpen(t *testing.T) {
 			if o, ok := log.Open(1); o != (api.Op{Kind: wait, Obj: 1, Arg: 77}) || !ok {
 				t.Errorf("Open(1) is %v, %v", o, ok)
 			}
-			if o, ok := log.Open(0); o != (api.Op{Kind: interrupt, Arg: 2}) || !ok {
+			if o, ok := log.Open(0); o != (api.Op{Kind: interrupt, Obj: 1, Arg: 2}) || !ok {
 				t.Errorf("Open(0) is %v, %v", o, ok)
 			}
 		}

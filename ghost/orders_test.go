@@ -56,7 +56,7 @@ func (n *numbers) op(w world, owns bool) api.Op {
 	case wait:
 		o.Arg = n.below(3)
 	case interrupt:
-		o.Obj, o.Arg = 0, n.below(w.threads)
+		o.Arg = n.below(w.threads)
 	}
 	return o
 }
@@ -76,6 +76,9 @@ func (n *numbers) event(w world, m *model.Model, thread int, part []ghost.Entry)
 		model.Hash: {api.OK, api.ErrOut}, model.Holds: {api.OK}, model.Interrupt: {api.OK},
 	}
 	e := model.Event{Kind: kinds[n.below(len(kinds))], Thread: thread, Obj: o.Obj}
+	if o.Kind == interrupt && n.below(4) > 0 {
+		e.Obj = 0
+	}
 	e.Err = errs[e.Kind][n.below(len(errs[e.Kind]))]
 	switch e.Kind {
 	case model.Wake:
@@ -156,7 +159,7 @@ func TestAllOrders(t *testing.T) {
 	met := map[outcome]int{}
 	for i, w := range worlds {
 		since := 0
-		walk(t, numbers(i+41), w, func(log *ghost.Log, l []ghost.Entry, e ghost.Entry, ok bool) {
+		walk(t, numbers(i+44), w, func(log *ghost.Log, l []ghost.Entry, e ghost.Entry, ok bool) {
 			if since++; since%7 == 0 || !ok && since%3 == 0 {
 				w.shows(t, log, l)
 			}

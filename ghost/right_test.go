@@ -66,6 +66,8 @@ var rights = []string{
 	"0 call holds 0; 0 holds 0; 0 return; 1 call enter 0; 1 enter 0; 1 return; 1 call holds 0; 1 holds 0 1; 1 return 1; 0 call holds 0; 0 holds 0 0; 0 return 0",
 
 	"0 call interrupt 0 2; 0 interrupt 0 2; 0 return; 1 call interrupt 0 1; 1 interrupt 0 1; 1 return; 1 call interrupt 0 0; 1 interrupt 0 0; 1 return",
+	// The object of an Interrupt is any one: its commit's is 0.
+	"0 call interrupt 1 2; 0 interrupt 0 2; 0 return; 1 call interrupt 1 0; 2 call holds 1; 1 interrupt 0 0; 2 holds 1; 1 return; 2 return",
 
 	// Between the entries of each stand the others'.
 	"0 call enter 0; 1 call enter 0; 2 call try 0; 1 enter 0; 0 enter 0 out; 2 try 0 busy; 2 return busy; 1 return; 2 call hash 0; 0 return out; 1 call exit 0; 2 hash 0 1; 1 exit 0; 0 call wait 1 3; 2 return 1; 1 return; 0 begin 1 state; 2 call enter 1; 2 enter 1; 0 return state; 2 return",

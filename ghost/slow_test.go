@@ -60,9 +60,6 @@ func (w world) has(o api.Op) bool {
 		most = math.MaxInt
 	case interrupt:
 		most = w.threads - 1
-		if o.Obj != 0 {
-			return false
-		}
 	}
 	_, ok := shapes[o.Kind]
 	return ok && o.Obj >= 0 && o.Obj < w.objects && o.Arg >= least && o.Arg <= most

@@ -94,7 +94,8 @@ func TestCallsThatMayNotBe(t *testing.T) {
 		{"", "0 call wait 0 -1; 0 call wait 0 -9223372036854775808", "0 call wait 0 9223372036854775807"},
 		{"", "0 call interrupt 0 -1; 0 call interrupt 0 3; 0 call interrupt 0 8; 0 call interrupt 0 4294967296", "0 call interrupt 0 2"},
 		// The object of an Interrupt.
-		{"", "0 call interrupt 1 0; 0 call interrupt 1 1; 0 call interrupt -1 0; 0 call interrupt 2 0", "0 call interrupt 0 0"},
+		{"", "0 call interrupt 2 0; 0 call interrupt -1 0; 0 call interrupt 8 0; 0 call interrupt 4294967296 0", "0 call interrupt 1 0"},
+		{"", "0 call interrupt 1 3; 0 call interrupt 1 -1; 0 call interrupt 2 2", "0 call interrupt 1 2"},
 		// Objects and threads that there are not, and no kind.
 		{"", "0 call enter 2; 0 call enter -1; 0 call holds 8; 0 call wait 2 1; 0 call hash 4294967296", "0 call enter 1"},
 		{"", "3 call enter 0; -1 call enter 0; 8 call enter 0; 4294967296 call enter 0", "2 call enter 0"},
@@ -137,6 +138,7 @@ func TestCommitsThatMayNotBe(t *testing.T) {
 		{waits + one + "; 1 call enter 1; 1 enter 1; 1 return; 1 call notify 1", "1 wake 0 0", "1 notify 1 -1"},
 		// The object of an Interrupt, and its thread.
 		{"0 call interrupt 0 1", "0 interrupt 1 1; 0 interrupt 0 0; 0 interrupt 0 2; 0 interrupt 0 -1; 0 interrupt 0 3", "0 interrupt 0 1"},
+		{"0 call interrupt 1 0", "0 interrupt 1 0; 0 interrupt 1 1; 0 interrupt 0 1; 0 interrupt 0 -1; 0 interrupt 2 0; 0 interrupt -1 0", "0 interrupt 0 0"},
 		// Two of an operation that may have just one.
 		{"0 call enter 0; 0 enter 0", "0 enter 0", "0 return"},
 		{"0 call try 0; 0 try 0", "0 try 0", "0 return"},
