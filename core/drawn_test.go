@@ -103,6 +103,8 @@ type history struct {
 	fats [api.MaxObjects]uint64
 	// last is the entry that was noted last.
 	last ghost.Entry
+	// since is when a thread began to wait.
+	since [api.MaxThreads]int64
 }
 
 // watched is a machine that is watched.
@@ -129,6 +131,9 @@ func (h *history) move(move string) {
 	}
 	if wrong == "" {
 		wrong = h.wrongGenerations()
+	}
+	if wrong == "" {
+		wrong = h.wrongWaits(before)
 	}
 	if wrong != "" {
 		h.t.Fatalf("%+v, %s: %s\n%s", h.c, move, wrong, logText(h.m))
@@ -186,6 +191,26 @@ func (h *history) wrongGenerations() string {
 			return fmt.Sprintf("the slot %d of the generation %d is told anew", x.Slot, x.Gen)
 		}
 		h.gens[x.Slot] = int64(x.Gen) + 1
+	}
+	return ""
+}
+
+// wrongWaits is what is wrong with those who wait: that one is late ahead of its time,
+// or sleeps behind it.
+func (h *history) wrongWaits(before view) string {
+	for t := range h.c.Threads {
+		was, is := before.words[stateCell+t], h.m.Word(stateCell+t)
+		if was == 0 && is == 1 {
+			h.since[t] = h.m.Now()
+		}
+		o, _ := h.m.Ghost().Open(t)
+		over := o.Arg > 0 && h.m.Now() >= h.since[t]+int64(o.Arg)
+		switch {
+		case was == 1 && is == 3 && !over:
+			return fmt.Sprintf("%d is late at %d, and waits since %d for %d", t, h.m.Now(), h.since[t], o.Arg)
+		case is == 1 && over && h.m.Asleep(t):
+			return fmt.Sprintf("%d sleeps at %d, and waits since %d for %d", t, h.m.Now(), h.since[t], o.Arg)
+		}
 	}
 	return ""
 }

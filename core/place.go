@@ -6,7 +6,7 @@ type place int
 const (
 	// Here a thread stands, and may be stopped.
 	atCall        place = iota // between two operations
-	atReturn                   // so: its operation is done, and lacks its Return
+	atReturn                   // so, too: its operation did all but tell its Return
 	atHeader                   // it looks at its object's header
 	atHeaderAgain              // it looks once more, as there is no slot
 	atState                    // it looks whether it was told

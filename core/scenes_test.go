@@ -149,6 +149,57 @@ func TestInterruptedAsItEnters(t *testing.T) {
 	}
 }
 
+// stood tells of each step of a thread whether it stands behind it ("s"), or runs
+// ("r"): a Deflate is done at once, or is not.
+func stood(t *testing.T, progs []string, thread int, ahead ...int) string {
+	t.Helper()
+	c := with(least(len(progs)), func(c *api.Config) { c.Objects = 2 })
+	got := ""
+	for many := 1; ; many++ {
+		m := made(t, c, progs...)
+		for _, first := range ahead {
+			exhaust(m, first)
+		}
+		for range many {
+			if !m.Pick(thread) {
+				return got
+			}
+		}
+		m.Deflate()
+		if m.Wanted() {
+			got += "r"
+		} else {
+			got += "s"
+		}
+	}
+}
+
+// P21.2: where a thread stands: between two operations, ahead of each look at a header
+// (one to be the first, one that begins anew, one as there is no slot), and as it looks
+// whether it was handed a monitor, or told; and nowhere else, but where it sleeps.
+func TestWhereOneStands(t *testing.T) {
+	for _, x := range []struct {
+		progs  []string
+		thread int
+		ahead  []int
+		want   string
+	}{
+		// It calls, looks, saves, puts the Thin one there, returns; then so to leave.
+		{[]string{"enter 0; exit 0"}, 0, nil, "srrss" + "srrss"},
+		{[]string{"holds 0; interrupt 0; hash 0; exit 0"}, 0, nil, "rss" + "rss" + "srss" + "sss"},
+		// It inflates, begins anew, waits, leaves, looks whether it was told, sleeps.
+		{[]string{"enter 0; wait 0"}, 0, nil, "srrss" + "srrrrrrs" + "rrrsrs"},
+		// It finds no slot, and looks once more.
+		{[]string{"enter 0; hash 0", "enter 1", "hash 1"}, 2, []int{0, 1}, "srsss"},
+		// It puts itself there, looks whether it was handed the monitor, sleeps.
+		{[]string{"enter 0; hash 0", "enter 0"}, 1, []int{0}, "srrrsrs"},
+	} {
+		if got := stood(t, x.progs, x.thread, x.ahead...); got != x.want {
+			t.Errorf("%q: %s, not %s", x.progs, got, x.want)
+		}
+	}
+}
+
 // P21.2: one that is unparked as it is awake does not sleep at its next Park: one who
 // is handed the monitor between its look and its sleep.
 func TestHandedAsOneFallsAsleep(t *testing.T) {

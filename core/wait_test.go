@@ -235,6 +235,40 @@ func TestWaitInterruptedAsItBegins(t *testing.T) {
 	}
 }
 
+// P21.2: one that comes to wait leaves the monitor, whoever puts itself at its lock
+// word between, and interrupts it: it begins to wait once, and leaves by itself then.
+func TestWaitMetAsItLeaves(t *testing.T) {
+	for _, queued := range []bool{false, true} {
+		for steps := 2; steps <= 9; steps++ {
+			m := made(t, least(3), "enter 0; hash 0; wait 0; exit 0", "enter 0; exit 0", "interrupt 0; enter 0; exit 0")
+			returns(t, m, 0, 1)
+			if queued {
+				exhaust(m, 1)
+			}
+			calls(t, m, 0, 2)
+			for range steps {
+				m.Pick(0)
+			}
+			for range 5 {
+				exhaust(m, 2)
+				exhaust(m, 0)
+				exhaust(m, 1)
+			}
+			if wrong := unsound(m); wrong != "" {
+				t.Fatal(wrong)
+			}
+			e, ok := returned(m, 0, 2)
+			l := commits(m, model.Begin, model.Leave, model.End)
+			if !ok || e.Err != api.ErrIntr || len(l) != 3 || l[0].Err != api.OK || l[1].Err != api.ErrIntr || l[2].Err != api.ErrIntr {
+				t.Errorf("behind %d steps its wait told %d: %v", steps, e.Err, l)
+			}
+			if m.Word(stateCell) != 0 || len(m.Ring(0)) != 0 || m.Flag(0) || !m.Ended(1) || !m.Ended(2) {
+				t.Errorf("behind %d steps its state is %d, the ring %v", steps, m.Word(stateCell), m.Ring(0))
+			}
+		}
+	}
+}
+
 // P21.2: a wait with an Arg is late behind just so many ticks, from its beginning on,
 // one without never.
 func TestWaitFor(t *testing.T) {
@@ -256,6 +290,26 @@ func TestWaitFor(t *testing.T) {
 	m.Tick(api.MaxTicks)
 	if m.Pick(0) || !m.Asleep(0) {
 		t.Error("a wait for ever is over")
+	}
+}
+
+// P21.2: whether one was late, and its alarm, are of one wait: the next one, for ever,
+// is not late by them, however the one ahead ended.
+func TestWaitAnew(t *testing.T) {
+	for _, other := range []string{"holds 0", "interrupt 0", "enter 0; notify 0; exit 0"} {
+		m := made(t, least(2), "enter 0; wait 0 5; wait 0; exit 0", other)
+		exhaust(m, 0)
+		exhaust(m, 1)
+		if other == "holds 0" {
+			m.Tick(5)
+		}
+		returns(t, m, 0, 1)
+		for range 3 {
+			if exhaust(m, 0); !m.Asleep(0) {
+				t.Errorf("behind %s its next wait is over", other)
+			}
+			m.Tick(10)
+		}
 	}
 }
 
